@@ -208,15 +208,27 @@ func TestP1_1Cmp(t *testing.T) {
 	}
 }
 
+// operationCase is what an operation must return for two numbers.
+type operationCase struct {
+	name    string
+	operate func(a, b string) (string, api.Errno)
+	a, b    string
+	want    string
+	e       api.Errno
+}
+
+func checkCases(t *testing.T, l []operationCase) {
+	t.Helper()
+	for _, x := range l {
+		if s, e := x.operate(x.a, x.b); s != x.want || e != x.e {
+			t.Errorf("%s(%s, %s): %s, %v", x.name, x.a, x.b, s, e)
+		}
+	}
+}
+
 func TestP1_2Examples(t *testing.T) {
 	add, sub, mul, div, mod := tested.Add, tested.Sub, tested.Mul, tested.Div, tested.Mod
-	for _, x := range []struct {
-		name    string
-		operate func(a, b string) (string, api.Errno)
-		a, b    string
-		want    string
-		e       api.Errno
-	}{
+	checkCases(t, []operationCase{
 		{"Add", add, "999", "1", "1000", api.OK}, {"Add", add, "-5", "5", "0", api.OK}, {"Add", add, "-5", "3", "-2", api.OK}, {"Add", add, "5", "-3", "2", api.OK},
 		{"Add", add, "9999999999999999999", "1", "10000000000000000000", api.OK}, {"Add", add, "999999999", "1", "1000000000", api.OK},
 		{"Add", add, "9223372036854775807", "1", "9223372036854775808", api.OK}, {"Sub", sub, "-9223372036854775808", "1", "-9223372036854775809", api.OK},
@@ -232,22 +244,12 @@ func TestP1_2Examples(t *testing.T) {
 		{"Div", div, "-9223372036854775808", "-1", "9223372036854775808", api.OK}, {"Mod", mod, "-9223372036854775808", "-1", "0", api.OK},
 		{"Div", div, nines(200), "-1", "-" + nines(200), api.OK}, {"Div", div, nines(200), nines(200), "1", api.OK}, {"Div", div, power(199), power(100), power(99), api.OK},
 		{"Div", div, "7", "0", "", api.ErrZero}, {"Mod", mod, "7", "0", "", api.ErrZero}, {"Div", div, "0", "0", "", api.ErrZero}, {"Mod", mod, "0", "0", "", api.ErrZero},
-	} {
-		if s, e := x.operate(x.a, x.b); s != x.want || e != x.e {
-			t.Errorf("%s(%s, %s): %s, %v", x.name, x.a, x.b, s, e)
-		}
-	}
+	})
 }
 
 func TestP1_2LongResults(t *testing.T) {
 	below := nines(199) + "8"
-	for _, x := range []struct {
-		name    string
-		operate func(a, b string) (string, api.Errno)
-		a, b    string
-		want    string
-		e       api.Errno
-	}{
+	checkCases(t, []operationCase{
 		{"Add", tested.Add, below, "1", nines(200), api.OK}, {"Add", tested.Add, nines(200), "0", nines(200), api.OK}, {"Add", tested.Add, nines(199), "1", power(199), api.OK},
 		{"Add", tested.Add, nines(200), "1", "", api.ErrOver}, {"Add", tested.Add, nines(200), nines(200), "", api.ErrOver}, {"Add", tested.Add, "-" + nines(200), "-1", "", api.ErrOver},
 		{"Add", tested.Add, "-" + below, "-1", "-" + nines(200), api.OK}, {"Add", tested.Add, nines(200), "-" + nines(200), "0", api.OK},
@@ -257,11 +259,7 @@ func TestP1_2LongResults(t *testing.T) {
 		{"Mul", tested.Mul, power(100), power(100), "", api.ErrOver}, {"Mul", tested.Mul, "-" + power(100), power(100), "", api.ErrOver},
 		{"Mul", tested.Mul, nines(100), nines(100), nines(99) + "8" + strings.Repeat("0", 99) + "1", api.OK}, {"Mul", tested.Mul, nines(100), nines(101), "", api.ErrOver},
 		{"Mul", tested.Mul, nines(150), nines(150), "", api.ErrOver}, {"Mul", tested.Mul, nines(200), nines(200), "", api.ErrOver}, {"Mul", tested.Mul, nines(200), "0", "0", api.OK},
-	} {
-		if s, e := x.operate(x.a, x.b); s != x.want || e != x.e {
-			t.Errorf("%s(%s, %s): %s, %v", x.name, x.a, x.b, s, e)
-		}
-	}
+	})
 }
 
 // checkOperations holds all five operations on two numbers against the library of the language.
