@@ -6,7 +6,7 @@ import (
 	"corollary/api"
 )
 
-// finder finds a token of one kind at the beginning of a rest of the text. It returns the token, without its position, and how many bytes it takes there: 0, if there is none.
+// finder finds a token of its kind at the beginning of a rest of the text. It returns the token, without its position, and how many bytes it takes there: 0, if there is none.
 type finder func(rest string) (Token, int)
 
 // first is the token at the beginning of a rest, as a finder finds it, or its error.
@@ -107,7 +107,7 @@ func anything(rest string) (Token, int) {
 	return Token{Kind: Any, Text: s}, len(s)
 }
 
-// number finds an Int or a Big, both by all that may not follow them, too.
+// number finds an Int or a Big. Letters, digits and _ that follow are looked at, too: with others than the b of a Big there is none.
 func number(rest string) (Token, int) {
 	s := leading(rest)
 	digits, long := strings.CutSuffix(s, "b")
