@@ -21,9 +21,12 @@ func TestR1WhatContainsItself(t *testing.T) {
 		if unify.May(wrong) || unify.IsVar(wrong) || len(unify.Vars([]api.Type{wrong})) != 0 {
 			t.Errorf("%s is valid", shown(wrong))
 		}
-		unify.Subst(wrong, []string{"'a"}, types("int"))
-		unify.Subst(typ("'a"), []string{"'a"}, []api.Type{wrong})
-		unify.Canon([]api.Type{typ("'b"), wrong, wrong})
+		one := unify.Subst(wrong, []string{"'a"}, types("int"))
+		other := unify.Subst(typ("'a"), []string{"'a"}, []api.Type{wrong})
+		all := unify.Canon([]api.Type{typ("'b"), wrong, wrong})
+		if one.Name != wrong.Name || !alikeOnes(other, typ("'a")) || len(all) != 3 || all[0].Name != "'b" || all[2].Name != wrong.Name {
+			t.Errorf("not as they were given: %s; %s; %s", shown(one), shown(other), shown(all...))
+		}
 		unify.Same(wrong, wrong)
 		unify.Same(wrong, endlessTwice())
 		if unify.Same(wrong, typ("t")) || unify.Same(typ("list", typ("int")), wrong) {

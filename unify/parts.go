@@ -54,12 +54,12 @@ func list(n int, at func(i int) api.Type) []api.Type {
 }
 
 // asGiven are types, some of them invalid, in new memory. Where there is more than a program may be given, as in a type
-// that contains itself, there is nothing that could be returned.
+// that contains itself, only the Name can be returned.
 func asGiven(l []api.Type) []api.Type {
 	parts := givenParts
 	return list(len(l), func(i int) api.Type {
 		if !fits(l[i], &parts, givenDepth) {
-			return api.Type{}
+			return api.Type{Name: l[i].Name}
 		}
 		return replaced(l[i], nil)
 	})
