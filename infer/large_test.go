@@ -123,6 +123,13 @@ func TestErrorsOfOtherTypesInFields(t *testing.T) {
 		checkRefused(t, "a type before; "+x.y+"; "+x.z, n, m.Types[1].Pos, api.ErrTooLarge)
 	}
 	n := copied(m)
+	n.Types[0].Cons[0].Fields[0].Type, n.Types[1].Cons[0].Fields[0].Type, n.Types[1].Params[0] = wide(3000), typ("'"), "'"
+	n.Types = append(n.Types, moduleOf(t, "type box('a) = box(v: 'a)").Types...)
+	n.Rels[0].Fields[0].Type = wide(3000)
+	checkRefused(t, "two types and a relation", n, m.Types[0].Pos, api.ErrTooLarge)
+	n.Types[0].Cons[0].Fields[0].Type = typ("int")
+	checkRefused(t, "a type and a relation", n, m.Types[1].Pos, api.ErrTooLarge)
+	n = copied(m)
 	n.Rels[0].Fields[0].Type, n.Rels[0].Fields[1].Type = typ("'a"), typ("'")
 	checkRefused(t, "too large behind a parameter", n, first, api.ErrTooLarge)
 	n = copied(m)
@@ -154,6 +161,7 @@ func TestP11_1TooLargeToUnify(t *testing.T) {
 		checkText(t, "never n :- ^"+wideText(n)+".", api.ErrType)
 		checkText(t, "never n :- X = "+wideText(n)+"^.v.", api.ErrType)
 	}
+	checkText(t, "pnt(count(-"+wideText(2049)+"), ^1).", api.ErrType) // its argument is not unified with anything
 	checkText(t, "never n :- bp(^box("+wideText(2048)+")).", api.ErrType)
 	checkText(t, "never n :- bp(box(^"+wideText(2049)+")).", api.ErrType)
 	checkText(t, "pbp(box(^"+wideText(2049)+")).", api.ErrType)

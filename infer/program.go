@@ -11,8 +11,8 @@ import (
 // program is what is declared, as rules use it.
 type program struct {
 	constructors map[string]decl.Cons
-	records      map[string]decl.Cons // the constructor of each type that has no other one
-	fields       map[string][]api.FieldDef
+	records      map[string]decl.Cons      // the constructor of each type that has no other one
+	rels         map[string][]api.FieldDef // the fields of each relation
 	operators    map[string]operator
 }
 
@@ -29,7 +29,7 @@ func newProgram(m api.Module, table *decl.Table) *program {
 	}
 	for _, d := range m.Rels {
 		known, _ := table.Rel(d.Name)
-		p.fields[d.Name] = known.Fields
+		p.rels[d.Name] = known.Fields
 	}
 	return p
 }

@@ -211,7 +211,7 @@ func (r renaming) exprs(l []api.Expr) {
 func TestP11_3Names(t *testing.T) {
 	g := newGenerator(4)
 	seen := map[api.Errno]int{}
-	for range 3000 {
+	for range 2000 {
 		m := g.module(2)
 		g.spoil(&m, g.IntN(3))
 		want, first, wantE := infer.Make(m)
@@ -237,7 +237,7 @@ func TestP11_3Names(t *testing.T) {
 			t.Fatalf("%v at %v, not %v at %v\n%s\n%s", e, at, wantE, first, shownTypes(got), shownTypes(want))
 		}
 	}
-	if seen[api.OK] < 800 || seen[api.ErrType] < 800 {
+	if seen[api.OK] < 500 || seen[api.ErrType] < 500 {
 		t.Errorf("%v", seen)
 	}
 }

@@ -24,12 +24,12 @@ func checkRead(t *testing.T, m api.Module) api.Errno {
 func TestP11_1RandomModules(t *testing.T) {
 	g := newGenerator(1)
 	seen := map[api.Errno]int{}
-	for range 8000 {
+	for range 5000 {
 		m := g.module(2)
 		g.spoil(&m, g.IntN(4))
 		seen[checkRead(t, m)]++
 	}
-	if seen[api.OK] < 2000 || seen[api.ErrType] < 3000 || seen[api.ErrForm] < 200 {
+	if seen[api.OK] < 1000 || seen[api.ErrType] < 2000 || seen[api.ErrForm] < 100 {
 		t.Errorf("%v", seen)
 	}
 }
@@ -72,7 +72,7 @@ func TestP11_1RandomBodies(t *testing.T) {
 	others := []string{"A = B.first", "B = C.x", "D = E.y", "A = B.v", "C = B.second", "A = -B", "B = (1)", "B = box(true)", "C = Z.v", "A = Y.x"}
 	seen := map[api.Errno]int{}
 	fields := 0
-	for range 8000 {
+	for range 5000 {
 		vars := map[string]string{}
 		for i := range 3 + g.IntN(5) {
 			vars[string(rune('A'+i))] = pick(g, types...)
@@ -94,7 +94,7 @@ func TestP11_1RandomBodies(t *testing.T) {
 			fields += strings.Count(text, ".") - 1
 		}
 	}
-	if seen[api.OK] < 1500 || seen[api.ErrType] < 1500 || fields < 2000 {
+	if seen[api.OK] < 1000 || seen[api.ErrType] < 1000 || fields < 1000 {
 		t.Errorf("%v, %d fields", seen, fields)
 	}
 }

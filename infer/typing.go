@@ -34,7 +34,7 @@ func (t *typing) literal(l api.Literal) {
 		t.requireAlike(l.Pos, variable, t.entered(l.Args[0]))
 	default:
 		for i, arg := range l.Args {
-			t.requireAlike(arg.Pos, t.entered(arg), t.program.fields[l.Rel][i].Type)
+			t.requireAlike(arg.Pos, t.entered(arg), t.rels[l.Rel][i].Type)
 		}
 	}
 }
@@ -46,7 +46,7 @@ func (t *typing) head(r api.Rule) {
 		if r.Aggs[i] == "count" {
 			x = typeOf("int")
 		}
-		t.requireAlike(arg.Pos, x, t.program.fields[r.Rel][i].Type)
+		t.requireAlike(arg.Pos, x, t.rels[r.Rel][i].Type)
 		if r.Aggs[i] == "sum" {
 			t.requireNumber(arg.Pos, x)
 		}
