@@ -166,7 +166,23 @@ func TestR1TooManyForms(t *testing.T) {
 			short = append(short, with(without(anyRow, i), i, mk(name)))
 		}
 		checkRows(t, x, xs, append(long[:len(long):len(long)], append(short, long[7], anyRow)...), true, 153, 154)
+		checkRows(t, x, times(n, of("tuple(color, color)")), append(paired(long, false), append(paired(short, true), paired([][]api.Expr{long[7], anyRow}, true)...)...), true, 153, 154)
 	}
+}
+
+// paired are rows with a tuple in the place of each pattern: of that, and of Any. Any remains as it is, or has one, too.
+func paired(rows [][]api.Expr, isAll bool) [][]api.Expr {
+	var result [][]api.Expr
+	for _, l := range rows {
+		l = slices.Clone(l)
+		for i, p := range l {
+			if isAll || p.Kind != api.Any {
+				l[i] = tup(p, anything())
+			}
+		}
+		result = append(result, l)
+	}
+	return result
 }
 
 // call is what one call is given.
